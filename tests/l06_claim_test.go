@@ -636,13 +636,18 @@ func TestClaimsAtTheLastCluster(t *testing.T) {
 		goodClaim(1, 0, 0, 0, 0), looseClaim(2, 0, 0, 0, 63), goodClaim(3, 0, 0, 0, 62), goodClaim(4, 62, 0, 0, 60))
 }
 
-func TestClaimsWithoutAHead(t *testing.T) {
+// nearlyAllKinds are headless lists, those among them that but for one word, or
+// for their length, would have claims of every kind.
+func nearlyAllKinds() [][]int64 {
 	lists := headless()
 	for _, w := range [][2]int64{{0, 20558}, {1, 2}, {2, 0}, {2, 65}, {6, 5}, {7, 1}, {3, -1}, {4, 65536}, {119, -1}, {119, 65536}, {60, -1}} {
 		lists = append(lists, withWord(allKinds(), int(w[0]), w[1]))
 	}
-	lists = append(lists, allKinds()[:2], append(allKinds(), make([]int64, 393)...))
-	for i, b := range lists {
+	return append(lists, allKinds()[:2], append(allKinds(), make([]int64, 393)...))
+}
+
+func TestClaimsWithoutAHead(t *testing.T) {
+	for i, b := range nearlyAllKinds() {
 		wantNoHead(t, "headless", b)
 		if got := impl.ClaimsIn(b); len(got) != 0 {
 			t.Errorf("the list %d: the claims %v", i, got)
@@ -697,17 +702,24 @@ func TestClaimsOfBrokenImages(t *testing.T) {
 	}
 }
 
-func TestClaimsAnswerEverywhere(t *testing.T) {
+// headedImages hands on images of all sorts of lengths with heads that lead to
+// all sorts of clusters, whatever words may stand in these.
+func headedImages(each func(b []int64)) {
 	for _, n := range []int{3, 4, 7, 8, 9, 16, 25, 53, 72, 505, 511, 512} {
 		for _, at := range []int64{0, 1, 2, 6, 62, 63, 64, 32769, 65535} {
 			for many := range int64(5) {
-				b := headed(n, impl.Head{Size: 64, First: at, Refs: 63 - at&63, Shots: 3, Many: many})
-				if got, want := impl.ClaimsIn(b), wantClaims(b); !slices.Equal(got, want) {
-					t.Fatalf("%d words: %v, want %v", n, got, want)
-				}
+				each(headed(n, impl.Head{Size: 64, First: at, Refs: 63 - at&63, Shots: 3, Many: many}))
 			}
 		}
 	}
+}
+
+func TestClaimsAnswerEverywhere(t *testing.T) {
+	headedImages(func(b []int64) {
+		if got, want := impl.ClaimsIn(b), wantClaims(b); !slices.Equal(got, want) {
+			t.Fatalf("%d words: %v, want %v", len(b), got, want)
+		}
+	})
 }
 
 func TestClaimsLeaveTheirArguments(t *testing.T) {
@@ -718,14 +730,18 @@ func TestClaimsLeaveTheirArguments(t *testing.T) {
 	}
 }
 
+func spoilClaims(answer []impl.Claim) {
+	answer = answer[:cap(answer)]
+	for i := range answer {
+		answer[i] = impl.Claim{Kind: -99, Target: -99}
+	}
+}
+
 // TestClaimsAnswerAnew: an answer that somebody wrote over is not given again.
 func TestClaimsAnswerAnew(t *testing.T) {
 	b := allKinds()
-	kept, other := impl.ClaimsIn(b), impl.ClaimsIn(b)
-	other = other[:cap(other)]
-	for i := range other {
-		other[i] = impl.Claim{Kind: -99, Target: -99}
-	}
+	kept := impl.ClaimsIn(b)
+	spoilClaims(impl.ClaimsIn(b))
 	if !slices.Equal(kept, wantClaims(b)) || !slices.Equal(impl.ClaimsIn(b), wantClaims(b)) {
 		t.Error("two answers share memory")
 	}
