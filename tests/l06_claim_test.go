@@ -126,6 +126,11 @@ func (w *wantedClaims) slots(table int64, each func(slot, target int64)) {
 	}
 }
 
+// someDisk is a disk of 20 that is in order: of its clusters one was written.
+func someDisk() []int64 {
+	return laid(impl.Head{Size: 20, First: 1, Refs: 2}, []int64{32772}, []int64{3}, []int64{1, 1, 1, 1, 1, 1}, []int64{0, 0, 32773}, []int64{7, 7, 7, 7, 7, 7, 7, 9})
+}
+
 // allKinds is an image with Good claims of every kind: a disk of 20 clusters
 // and two Shots of it. The clusters 7 and 9 are second tables that two first
 // tables share, and both of them lead to 10.

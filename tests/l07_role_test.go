@@ -73,7 +73,7 @@ func wantLoose(b []int64) []impl.Claim {
 }
 
 func TestRolesOfOrdinaryDisks(t *testing.T) {
-	disk := laid(impl.Head{Size: 20, First: 1, Refs: 2}, []int64{32772}, []int64{3}, []int64{1, 1, 1, 1, 1, 1}, []int64{0, 0, 32773}, []int64{7, 7, 7, 7, 7, 7, 7, 9})
+	disk := someDisk()
 	checkRoles(t, "a disk", disk, 1, 2, 3, 4, 7, 8)
 	checkLoose(t, "a disk", disk)
 	empty := laid(impl.Head{Size: 8, First: 1, Refs: 2}, nil, []int64{3}, []int64{1, 1, 1, 1})

@@ -51,7 +51,7 @@ func wantCounts(b []int64) []int64 {
 }
 
 func TestCountsOfOrdinaryDisks(t *testing.T) {
-	disk := laid(impl.Head{Size: 20, First: 1, Refs: 2}, []int64{32772}, []int64{3}, []int64{1, 1, 1, 1, 1, 1}, []int64{0, 0, 32773}, []int64{7, 7, 7, 7, 7, 7, 7, 9})
+	disk := someDisk()
 	checkCounts(t, "a disk", disk, 1, 1, 1, 1, 1, 1)
 	empty := laid(impl.Head{Size: 8, First: 1, Refs: 2}, nil, []int64{3}, []int64{1, 1, 1, 1})
 	checkCounts(t, "an empty disk", empty, 1, 1, 1, 1)
