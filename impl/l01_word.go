@@ -16,7 +16,7 @@ func ClustersIn(b []int64) int64 {
 	if !ImageOk(b) {
 		return -1
 	}
-	return int64(len(clustersOf(b)))
+	return clustersFor(len(b))
 }
 
 func ClusterAt(b []int64, at int64) []int64 {
@@ -24,7 +24,8 @@ func ClusterAt(b []int64, at int64) []int64 {
 	if at < 0 || at >= ClustersIn(b) {
 		return nil
 	}
-	return joined(clustersOf(b)[at : at+1])
+	from := at * Width
+	return joined(clustersOf(b[from:min(from+Width, int64(len(b)))]))
 }
 
 func WithCluster(b []int64, at int64, words []int64) []int64 {
@@ -64,7 +65,7 @@ func clusterOk(words []int64) bool {
 // clustersOf copies, so that nobody above can reach the image it came from; an
 // array begins as zeros, which is what the last cluster lacks.
 func clustersOf(b []int64) []cluster[int64] {
-	clusters := make([]cluster[int64], (len(b)+Width-1)/Width)
+	clusters := make([]cluster[int64], clustersFor(len(b)))
 	for i, w := range b {
 		clusters[i/Width][i%Width] = w
 	}
@@ -77,4 +78,10 @@ func joined(clusters []cluster[int64]) []int64 {
 		words = append(words, c[:]...)
 	}
 	return words
+}
+
+// clustersFor is asked far more often than the clusters themselves are, so that
+// it does without them.
+func clustersFor(many int) int64 {
+	return int64((many + Width - 1) / Width)
 }
